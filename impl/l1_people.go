@@ -15,6 +15,11 @@ func worldCount(people int) int {
 	return 1 << people
 }
 
+// allWorlds is the table of all worlds. Callers check peopleOk first, as for worldCount.
+func allWorlds(people int) int {
+	return 1<<worldCount(people) - 1
+}
+
 // WorldOk reports whether a number tells a world of so many people, in 1..MaxPeople: to it each person who tells the truth adds 1 for the person 0, 2 for 1, and so on, each next one twice as much; from 0 on, and less than 2 to the power of the number of people.
 func WorldOk(people int, world int) bool {
 	return peopleOk(people) && world >= 0 && world < worldCount(people)
