@@ -201,6 +201,7 @@ func checkNoStory(t *testing.T, people int, story []impl.Claim) {
 	if got := impl.StoryTable(people, story); got != -1 {
 		t.Error("StoryTable", people, story, got)
 	}
+	checkNoAnswers(t, people, story)
 }
 
 func TestMaxClaims(t *testing.T) {
