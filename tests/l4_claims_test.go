@@ -187,6 +187,7 @@ func checkNoClaim(t *testing.T, people int, c impl.Claim) {
 	if got, ok := impl.DenyClaim(people, c); ok || got.Who != 0 || len(got.Says) != 0 {
 		t.Error("DenyClaim", people, c, got, ok)
 	}
+	checkNothingOdd(t, people, c)
 	is := impl.Claim{Says: tellsRow(0)}
 	for _, story := range [][]impl.Claim{{c}, {c, c}, {c, is}, {is, c}, {is, c, is}, {c, is, is, is, is, is}, {is, is, is, is, is, c}} {
 		checkNoStory(t, people, story)

@@ -103,8 +103,11 @@ func eachTold(f func(people int, story []said)) {
 	}
 }
 
-// withoutWorld is a claim that may be made in all worlds but one: who says it says that to tell the truth is the same as not to be there.
-func withoutWorld(people, who, world int) said {
+// thereTree holds in one world alone. That nobody tells the truth is told by a count, as it is too long for a claim of MaxPeople people else.
+func thereTree(people, world int) *tree {
+	if world == 0 {
+		return notTree(countTree(1))
+	}
 	var there *tree
 	for person, tells := range tellsIn(people, world) {
 		part := personTree(person)
@@ -117,7 +120,12 @@ func withoutWorld(people, who, world int) said {
 			there = andTree(there, part)
 		}
 	}
-	return said{who, sameTree(personTree(who), notTree(there))}
+	return there
+}
+
+// withoutWorld is a claim that may be made in all worlds but one: who says it says that to tell the truth is the same as not to be there.
+func withoutWorld(people, who, world int) said {
+	return said{who, sameTree(personTree(who), notTree(thereTree(people, world)))}
 }
 
 // checkNoAnswers tests what is returned for what is no story.
