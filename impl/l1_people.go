@@ -10,6 +10,11 @@ func peopleOk(people int) bool {
 	return people >= 1 && people <= MaxPeople
 }
 
+// personOk does not look at the number of people: callers check peopleOk, too, or what implies it.
+func personOk(people int, who int) bool {
+	return who >= 0 && who < people
+}
+
 // worldCount is also the first number past the worlds. Callers check peopleOk first: a shift by less than 0 panics.
 func worldCount(people int) int {
 	return 1 << people

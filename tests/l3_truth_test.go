@@ -322,6 +322,7 @@ func checkNoTruth(t *testing.T, people int, marks []impl.Mark) {
 			t.Error("FollowsOk", people, marks, other)
 		}
 	}
+	checkNoQuestion(t, people, marks)
 }
 
 func TestTruthRefuses(t *testing.T) {
