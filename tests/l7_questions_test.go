@@ -129,6 +129,12 @@ func chainIsTold(list []int, n *tree) bool {
 	return len(n.marks())+2*len(list) <= impl.MaxMarks
 }
 
+// noTerms are rows of marks that are no term for so many people.
+func noTerms(people int) [][]impl.Mark {
+	a, not := impl.Mark{}, impl.Mark{Kind: impl.MarkNot}
+	return [][]impl.Mark{nil, {}, {not}, {not, a}, {a, a}, {a, a, not}, tellsRow(people), tellsRow(-1), countRow(people + 2), countRow(-1), {{Kind: 6}}, {{Kind: -1}}, {a, {Kind: impl.MarkNot, At: 1}}, nots(5000, personTree(0)).marks()}
+}
+
 // checkNoQuestion tests what is returned for what is no term, whoever is asked.
 func checkNoQuestion(t *testing.T, people int, row []impl.Mark) {
 	t.Helper()
@@ -151,6 +157,7 @@ func checkNotAnswered(t *testing.T, people, who int, row []impl.Mark) {
 	if impl.AlikeOk(people, who, row) {
 		t.Error("AlikeOk", people, who, row)
 	}
+	checkNotSpoken(t, people, who, row)
 }
 
 func checkNoAnswer(t *testing.T, people, who int, row []impl.Mark, world int) {
@@ -555,7 +562,6 @@ func TestAnswersAreChainsOfOne(t *testing.T) {
 }
 
 func TestQuestionsRefuse(t *testing.T) {
-	a, not := impl.Mark{}, impl.Mark{Kind: impl.MarkNot}
 	for _, people := range wrongPeople {
 		for _, row := range [][]impl.Mark{nil, tellsRow(0), countRow(0), countRow(1), liesRow(0)} {
 			checkNoQuestion(t, people, row)
@@ -575,7 +581,7 @@ func TestQuestionsRefuse(t *testing.T) {
 				}
 			}
 		}
-		for _, row := range [][]impl.Mark{nil, {}, {not}, {not, a}, {a, a}, {a, a, not}, tellsRow(people), tellsRow(-1), countRow(people + 2), countRow(-1), {{Kind: 6}}, {{Kind: -1}}, {a, {Kind: impl.MarkNot, At: 1}}, nots(5000, personTree(0)).marks()} {
+		for _, row := range noTerms(people) {
 			checkNoQuestion(t, people, row)
 		}
 	}
