@@ -188,6 +188,7 @@ func checkNoClaim(t *testing.T, people int, c impl.Claim) {
 		t.Error("DenyClaim", people, c, got, ok)
 	}
 	checkNothingOdd(t, people, c)
+	checkNotByKinds(t, people, c)
 	is := impl.Claim{Says: tellsRow(0)}
 	for _, story := range [][]impl.Claim{{c}, {c, c}, {c, is}, {is, c}, {is, c, is}, {c, is, is, is, is, is}, {is, is, is, is, is, c}} {
 		checkNoStory(t, people, story)
@@ -203,6 +204,7 @@ func checkNoStory(t *testing.T, people int, story []impl.Claim) {
 		t.Error("StoryTable", people, story, got)
 	}
 	checkNoAnswers(t, people, story)
+	checkNoSpies(t, people, story)
 }
 
 func TestMaxClaims(t *testing.T) {
